@@ -246,16 +246,11 @@ func TestNumberAtMost(t *testing.T) {
 		{299, 299, 299, api.OK},
 		{300, 300, 300, api.OK},
 		{300, 299, 0, api.ErrLong},
-		{300, -1, 300, api.OK},
-		{300, math.MinInt, 300, api.OK},
 		{math.MaxInt, math.MaxInt, math.MaxInt, api.OK},
 		{math.MaxInt, math.MaxInt - 1, 0, api.ErrLong},
-		{math.MaxInt, -1, math.MaxInt, api.OK},
 		{math.MaxInt + 1, math.MaxInt, 0, api.ErrLong},
 		{math.MaxUint64, math.MaxInt, 0, api.ErrLong},
 		{math.MaxUint64, 0, 0, api.ErrLong},
-		{math.MaxInt + 1, -1, math.MinInt, api.OK},
-		{math.MaxUint64, -7, -1, api.OK},
 	}
 	for _, c := range tests {
 		b := Uvarint(nil, c.n)
@@ -282,23 +277,22 @@ func TestBytesAtMost(t *testing.T) {
 		left int
 	}{
 		{"none", "\x00", 0, "", api.OK, 0},
-		{"none, and one behind", "\x00x", -1, "", api.OK, 1},
+		{"none, and one behind", "\x00x", 0, "", api.OK, 1},
 		{"as many as may be", "\x02abx", 2, "ab", api.OK, 1},
 		{"fewer than may be", "\x02abx", 3, "ab", api.OK, 1},
-		{"any", "\x02abx", -1, "ab", api.OK, 1},
+		{"far fewer than may be", "\x02abx", math.MaxInt, "ab", api.OK, 1},
 		{"more than may be", "\x02abx", 1, "", api.ErrLong, 4},
 		{"more than none", "\x01ax", 0, "", api.ErrLong, 3},
 		{"too few", "\x03ab", 3, "", api.ErrText, 3},
-		{"too few of any", "\x03ab", -1, "", api.ErrText, 3},
+		{"too few, and far fewer than may be", "\x03ab", math.MaxInt, "", api.ErrText, 3},
 		{"too few, and more than may be", "\x03ab", 2, "", api.ErrLong, 3},
 		{"none of one", "\x01", 1, "", api.ErrText, 1},
 		{"how many, in another form", "\x82\x00ab", 2, "", api.ErrText, 4},
 		{"how many, in another form, and more than may be", "\x82\x00ab", 1, "", api.ErrText, 4},
-		{"as many as an int can say", string(Uvarint(nil, math.MaxInt)) + "ab", -1, "", api.ErrText, 11},
-		{"as many as an int can say, which may be", string(Uvarint(nil, math.MaxInt)) + "ab", math.MaxInt, "", api.ErrText, 11},
-		{"more than an int can say", string(Uvarint(nil, math.MaxInt+1)) + "ab", -1, "", api.ErrText, 12},
-		{"more than an int can say, and than may be", string(Uvarint(nil, math.MaxInt+1)) + "ab", math.MaxInt, "", api.ErrLong, 12},
-		{"the most that can be said", string(Uvarint(nil, math.MaxUint64)) + "ab", -1, "", api.ErrText, 12},
+		{"as many as an int can say", string(Uvarint(nil, math.MaxInt)) + "ab", math.MaxInt, "", api.ErrText, 11},
+		{"as many as an int can say, and one more than may be", string(Uvarint(nil, math.MaxInt)) + "ab", math.MaxInt - 1, "", api.ErrLong, 11},
+		{"more than an int can say", string(Uvarint(nil, math.MaxInt+1)) + "ab", math.MaxInt, "", api.ErrLong, 12},
+		{"the most that can be said", string(Uvarint(nil, math.MaxUint64)) + "ab", math.MaxInt, "", api.ErrLong, 12},
 	}
 	for _, c := range tests {
 		r := Read([]byte("y" + c.b))
@@ -308,6 +302,36 @@ func TestBytesAtMost(t *testing.T) {
 		}
 		if c.err != api.OK {
 			stuck(t, c.name, r, c.err, c.left)
+		}
+	}
+}
+
+// Wi2: where most is below 0, any number is above it, 0 too; Uvarint and Varint have no such bound.
+func TestMostBelowNothing(t *testing.T) {
+	for _, most := range []int{-1, -2, -300, math.MinInt + 1, math.MinInt} {
+		for _, n := range numbers() {
+			b := Uvarint(nil, n)
+			for _, behind := range []string{"", "x", "abcdefgh"} {
+				all := string(b) + behind
+				r := Read([]byte("y" + all))
+				r.Byte()
+				if got := r.Number(most); got != 0 {
+					t.Errorf("Number(%d) of %d: %d", most, n, got)
+				}
+				stuck(t, "a number above one below 0", r, api.ErrLong, len(all))
+				r = Read([]byte("y" + all))
+				r.Byte()
+				if got := r.Bytes(most); len(got) != 0 {
+					t.Errorf("Bytes(%d), %d of them: %q", most, n, got)
+				}
+				stuck(t, "bytes more than some below 0", r, api.ErrLong, len(all))
+			}
+			if r := Read(b); r.Uvarint() != n || r.Done() != api.OK {
+				t.Errorf("Uvarint of %d: Done %d", n, r.Done())
+			}
+			if r := Read(Varint(nil, int64(n))); r.Varint() != int64(n) || r.Done() != api.OK {
+				t.Errorf("Varint of %d: Done %d", int64(n), r.Done())
+			}
 		}
 	}
 }
@@ -353,21 +377,21 @@ func TestReaderMemory(t *testing.T) {
 	room := []byte("\x02ab\x02cdefgh")
 	r := Read(room[:6])
 	clear(room)
-	one := r.Bytes(-1)
+	one := r.Bytes(2)
 	if string(one) != "ab" {
 		t.Fatalf("what is read was turned from outside: %q", one)
 	}
 	for i := range one[:cap(one)] {
 		one[:cap(one)][i] = 0xee
 	}
-	if two := r.Bytes(-1); string(two) != "cd" || r.Done() != api.OK {
+	if two := r.Bytes(2); string(two) != "cd" || r.Done() != api.OK {
 		t.Errorf("what is read was turned by an answer: %q", two)
 	}
 	if string(room) != "\x00\x00\x00\x00\x00\x00\x00\x00\x00\x00" {
 		t.Errorf("reading turned what was handed in: %q", room)
 	}
 	b := Bytes(nil, []byte("ab"))
-	first, again := Read(b).Bytes(-1), Read(b).Bytes(-1)
+	first, again := Read(b).Bytes(2), Read(b).Bytes(2)
 	clear(first[:cap(first)])
 	if string(again) != "ab" || string(b) != "\x02ab" {
 		t.Errorf("two readers share: %q, %q", again, b)
@@ -403,8 +427,8 @@ func kinds() []func(r *Reader, b []byte) []byte {
 		func(r *Reader, b []byte) []byte { return Fixed4(b, r.Fixed4()) },
 		func(r *Reader, b []byte) []byte { return Fixed8(b, r.Fixed8()) },
 		func(r *Reader, b []byte) []byte { return append(b, r.Byte()) },
-		func(r *Reader, b []byte) []byte { return Uvarint(b, uint64(r.Number(-1))) },
-		func(r *Reader, b []byte) []byte { return Bytes(b, r.Bytes(-1)) },
+		func(r *Reader, b []byte) []byte { return Uvarint(b, uint64(r.Number(math.MaxInt))) },
+		func(r *Reader, b []byte) []byte { return Bytes(b, r.Bytes(math.MaxInt)) },
 	}
 }
 
